@@ -199,6 +199,7 @@ func calls() map[string]func(s api.Store) api.Store {
 		return got
 	}
 	return map[string]func(s api.Store) api.Store{
+		"Clone":                Clone,
 		"Spawn, an old table":  func(s api.Store) api.Store { return spawn(s, 1, api.Row{}) },
 		"Spawn, a new table":   func(s api.Store) api.Store { return spawn(s, 2, api.Row{}) },
 		"Spawn, last table":    func(s api.Store) api.Store { return spawn(s, 31, full) },
@@ -246,6 +247,17 @@ func TestHandedInStays(t *testing.T) {
 		_ = append(l, -5)
 		if !reflect.DeepEqual(spread(s), want) {
 			t.Errorf("Query %d: the store was changed: %+v", mask, spread(s))
+		}
+	}
+}
+
+// Clone: the same, whatever it is, and in memory of its own.
+func TestClone(t *testing.T) {
+	l := bads()
+	l["nothing"], l["no tables"] = api.Store{}, api.Store{Tables: []api.Table{}, Next: 5}
+	for name, s := range l {
+		if got := Clone(s); !reflect.DeepEqual(got, s) {
+			t.Errorf("%s: %+v, want %+v", name, got, s)
 		}
 	}
 }
